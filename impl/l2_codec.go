@@ -103,12 +103,12 @@ func (r *byteReader) number(width int) int64 {
 	return n
 }
 
-// ranOut tells whether a recovered value is that of a reader; any other is a fault of the program and goes on.
-func ranOut(fault any) bool {
+// caught tells whether a recovered value is a panic of the kind T; any other is a fault of the program and goes on.
+func caught[T any](fault any) bool {
 	if fault == nil {
 		return false
 	}
-	if _, ok := fault.(outOfBytes); !ok {
+	if _, ok := fault.(T); !ok {
 		panic(fault)
 	}
 	return true
@@ -183,7 +183,7 @@ func EncodeInode(n Inode) []byte {
 
 func DecodeInode(block []byte) (result InodeResult) {
 	defer func() {
-		if ranOut(recover()) {
+		if caught[outOfBytes](recover()) {
 			result = InodeResult{}
 		}
 	}()
@@ -226,7 +226,7 @@ func EncodeTable(t []Entry) []byte {
 
 func DecodeTable(data []byte) (result TableResult) {
 	defer func() {
-		if ranOut(recover()) {
+		if caught[outOfBytes](recover()) {
 			result = TableResult{}
 		}
 	}()
@@ -281,7 +281,7 @@ func EncodeHeader(h Header) []byte {
 
 func DecodeHeader(block []byte) (result HeaderResult) {
 	defer func() {
-		if ranOut(recover()) {
+		if caught[outOfBytes](recover()) {
 			result = HeaderResult{}
 		}
 	}()
