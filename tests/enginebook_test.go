@@ -27,9 +27,10 @@ type bookFile struct {
 	lids []int64
 }
 
+// bookEngine leaves the codes and the names to a plain store; the data are those of its disk, which may have been changed from outside.
 type bookEngine struct {
 	g       impl.Geometry
-	blocks  [][]byte
+	disk    impl.Disk
 	plain   *plainStore
 	working []bookFile
 	durable []bookFile
@@ -37,7 +38,6 @@ type bookEngine struct {
 	seq     int64
 	active  int64
 	used    int64
-	pending int
 	call    int
 	ops     []bookOp
 }
@@ -45,13 +45,10 @@ type bookEngine struct {
 // newBookEngine takes disks that can be mounted.
 func newBookEngine(d impl.Disk, g impl.Geometry) *bookEngine {
 	m := mountByBook(d, g)
-	b := &bookEngine{g: g, plain: newPlainStore(g, m.Files), table: m.Table, seq: m.Seq, active: -1}
-	for i := range logOf(g) + payloadOf(g) {
-		b.blocks = append(b.blocks, bytes.Clone(blockAt(d, i)))
-	}
+	b := &bookEngine{g: g, disk: copyDisk(d), plain: newPlainStore(g, m.Files), table: m.Table, seq: m.Seq, active: -1}
 	for i, e := range b.table {
 		if e.Inode {
-			block := b.blocks[e.Addr]
+			block := blockAt(d, e.Addr)
 			f := bookFile{name: strings.Trim(string(block[:16]), "\x00"), size: int(binary.BigEndian.Uint16(block[16:]))}
 			for at := 18; at < 18+2*((f.size+63)/64); at += 2 {
 				f.lids = append(f.lids, int64(binary.BigEndian.Uint16(block[at:])))
@@ -64,19 +61,52 @@ func newBookEngine(d impl.Disk, g impl.Geometry) *bookEngine {
 	return b
 }
 
+// on makes the operation on a disk.
+func (o bookOp) on(d *impl.Disk) {
+	if o.data != nil {
+		d.Pending = append(d.Pending, impl.Write{Block: o.block, Data: o.data})
+		return
+	}
+	for _, w := range d.Pending {
+		copy(d.Durable[64*w.Block:], w.Data)
+	}
+	d.Pending = nil
+}
+
+func (b *bookEngine) operate(o bookOp) {
+	b.ops = append(b.ops, o)
+	o.on(&b.disk)
+}
+
 func (b *bookEngine) barrier() {
-	b.ops = append(b.ops, bookOp{call: b.call})
-	b.pending = 0
+	b.operate(bookOp{call: b.call})
 }
 
 func (b *bookEngine) write(block int64, data []byte) {
-	if b.pending > 255 {
+	if len(b.disk.Pending) > 255 {
 		b.barrier()
 	}
 	data = append(bytes.Clone(data), make([]byte, 64-len(data))...)
-	b.ops = append(b.ops, bookOp{call: b.call, block: block, data: data})
-	b.blocks[block] = data
-	b.pending++
+	b.operate(bookOp{call: b.call, block: block, data: data})
+}
+
+func (b *bookEngine) read(block int64) []byte {
+	for _, w := range slices.Backward(b.disk.Pending) {
+		if w.Block == block {
+			return w.Data
+		}
+	}
+	return blockAt(b.disk, block)
+}
+
+// dataOf takes names of working files only.
+func (b *bookEngine) dataOf(name string) string {
+	f := b.working[slices.IndexFunc(b.working, func(f bookFile) bool { return f.name == name })]
+	data := ""
+	for _, lid := range f.lids[:len(f.lids)-1] {
+		data += string(b.read(b.table[lid-1].Addr))
+	}
+	return data[:f.size]
 }
 
 func (b *bookEngine) counts() []int64 {
@@ -158,7 +188,7 @@ func (b *bookEngine) clean() int64 {
 		addr := logOf(b.g) + victim*b.g.SegBlocks + i
 		for at, e := range b.table {
 			if e.Addr == addr {
-				b.append(int64(at)+1, b.blocks[addr], e.Inode)
+				b.append(int64(at)+1, b.read(addr), e.Inode)
 				moved++
 				break
 			}
@@ -193,15 +223,19 @@ func (b *bookEngine) stat() impl.Stat {
 	return impl.Stat{Files: int64(len(b.working)), Live: b.live(), Free: b.free(), Active: b.active, Seq: b.seq}
 }
 
-// answer leaves the codes, the data and the names to the plain store, and adds what hangs on the disk.
+// answer adds what hangs on the disk to the answer of the plain store.
 func (b *bookEngine) answer(c impl.Call) impl.Answer {
 	a := b.plain.answer(c)
 	if a.Code != 0 {
 		return a
 	}
 	switch c.Kind {
-	case 1, 3:
-		b.store(c.Name, b.plain.working[c.Name].data)
+	case 1:
+		b.store(c.Name, c.Data)
+	case 2:
+		a.Data = b.dataOf(c.Name)
+	case 3:
+		b.store(c.Name, (b.dataOf(c.Name) + strings.Repeat("\x00", 1408))[:c.Size])
 	case 4:
 		b.remove(c.Name)
 	case 6:
@@ -245,14 +279,7 @@ func (r bookRun) at(limit int64) impl.RunResult {
 func diskAfter(d impl.Disk, ops []bookOp) impl.Disk {
 	d = copyDisk(d)
 	for _, o := range ops {
-		if o.data != nil {
-			d.Pending = append(d.Pending, impl.Write{Block: o.block, Data: o.data})
-			continue
-		}
-		for _, w := range d.Pending {
-			copy(d.Durable[64*w.Block:], w.Data)
-		}
-		d.Pending = nil
+		o.on(&d)
 	}
 	return d
 }
